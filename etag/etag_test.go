@@ -186,6 +186,26 @@ func TestTextOfParse(t *testing.T) {
 	}
 }
 
+// P11.1: any number of tags, and then a star or what is no tag.
+func TestTagsOfEveryCount(t *testing.T) {
+	var l []string
+	var want []api.Tag
+	for i := range 300 {
+		value := strings.Repeat("a", i%5)
+		l, want = append(l, `"`+value+`"`), append(want, strong(value))
+		for _, values := range [][]string{l, {strings.Join(l, ", ")}} {
+			if tags, star, e := etag.Tags(values); !slices.Equal(tags, want) || star || e != api.OK {
+				t.Errorf("%d tags: %d, %v, %d", i+1, len(tags), star, e)
+			}
+			for _, last := range []string{"*", "a"} {
+				if tags, star, e := etag.Tags(append(slices.Clone(values), last)); len(tags) != 0 || star || e != api.ErrBad {
+					t.Errorf("%d tags and %s: %d, %v, %d", i+1, last, len(tags), star, e)
+				}
+			}
+		}
+	}
+}
+
 func TestLongTags(t *testing.T) {
 	value := strings.Repeat(`a,\b`, 1<<18)
 	text, e := etag.Text(weak(value))
